@@ -235,7 +235,7 @@ func TestSpoilt(t *testing.T) {
 	}
 }
 
-// P1.3: no two texts of three bytes' last two have the same sum, all of them tried.
+// P1.3: texts that differ in two bytes in a row have different sums, all such pairs tried.
 func TestSumsDiffer(t *testing.T) {
 	seen := map[uint32]int{}
 	for x := range 1 << 16 {
